@@ -7,6 +7,7 @@ import (
 	"testing"
 
 	"pushmill/api"
+	"pushmill/facts"
 )
 
 // mixed has of each kind of nonterminal one: n1 is Empty alone, n2 is Empty or begins with t1, n3 begins with t2, n4 makes nothing, n5 begins with t4 and is never come to.
@@ -214,6 +215,19 @@ func TestP32AsOfHasIt(t *testing.T) {
 				want |= f.Follow[n]
 			}
 			begins(t, g, []api.Sym{non(n)}, f.Follow[n], want)
+		}
+	}
+}
+
+// With the facts at hand the same is told.
+func TestP32BeginBy(t *testing.T) {
+	rng := rand.New(rand.NewSource(32))
+	for range 3000 {
+		g := wildOne(rng)
+		f, _ := facts.Of(g)
+		body, behind := wildBody(rng, g, rng.Intn(9)), rng.Uint64()
+		if got, want := facts.BeginBy(f, body, behind), plainBegin(plainOf(g), body, behind); got != want {
+			t.Fatalf("BeginBy of %s, %v, %x: %x, not %x", show(g), body, behind, got, want)
 		}
 	}
 }
